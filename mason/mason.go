@@ -1,0 +1,18 @@
+// Package mason: texts of operations, made into bytes: see DOC.md.
+package mason
+
+import (
+	"mason/api"
+	"mason/expression"
+)
+
+// Value reckons an expression (P2).
+func Value(expr string, at int, names []api.Name) (int, api.Errno) {
+	return expression.Value(expr, at, names)
+}
+
+// Expand does what macros and conditions say; what is left are lines of operations (P4).
+func Expand(text string) ([]api.Line, api.Errno, int) { return nil, api.OK, 0 }
+
+// Assemble makes a text into bytes (P5).
+func Assemble(text string) (api.Program, api.Errno, int) { return api.Program{}, api.OK, 0 }

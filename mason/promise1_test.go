@@ -1,0 +1,108 @@
+package mason_test
+
+import (
+	"slices"
+	"strings"
+	"sync"
+	"testing"
+
+	"mason/api"
+	"mason/mason"
+)
+
+// oddTexts are texts that a call must end with, whatever it answers.
+func oddTexts() []string {
+	texts := []string{
+		"", "\n", "\n\n", "\r\n", "\x00", "\xff\xfe", "é", ";", ":", ",", "'", "$", "-", "\\",
+		"nop", "a: jmp a", "jmp end\nend: ret", ".if 1", ".macro m\nm\n.end\nm", ".set x,1\nload r0,x", "x", "1+1", "'a'",
+		strings.Repeat("n", api.MaxLine), strings.Repeat("n", api.MaxLine+1),
+		strings.Repeat("\n", api.MaxText), strings.Repeat("\n", api.MaxText+1), strings.Repeat("nop\n", api.MaxText),
+		strings.Repeat("(", 1<<16), strings.Repeat(".if 1\n", 100), strings.Repeat("1-", 1<<16),
+	}
+	for b := range 256 {
+		texts = append(texts, string([]byte{byte(b)}), string([]byte{'1', byte(b)}), string([]byte{byte(b), '1'}))
+	}
+	return texts
+}
+
+func TestValueWithErrorIsNothing(t *testing.T) {
+	for _, text := range oddTexts() {
+		if number, errno := mason.Value(text, 1, knownNames()); errno != api.OK && number != 0 {
+			t.Errorf("Value(%q) = %d beside error %d", text, number, errno)
+		}
+	}
+}
+
+func TestExpandWithErrorIsNothing(t *testing.T) {
+	for _, text := range oddTexts() {
+		lines, errno, line := mason.Expand(text)
+		if errno == api.OK && line != 0 {
+			t.Errorf("Expand(%q) tells line %d without an error", text, line)
+		}
+		if errno != api.OK && len(lines) != 0 {
+			t.Errorf("Expand(%q) has lines beside error %d", text, errno)
+		}
+	}
+}
+
+func TestAssembleWithErrorIsNothing(t *testing.T) {
+	for _, text := range oddTexts() {
+		program, errno, line := mason.Assemble(text)
+		if errno == api.OK && line != 0 {
+			t.Errorf("Assemble(%q) tells line %d without an error", text, line)
+		}
+		if errno != api.OK && len(program.Bytes)+len(program.Lines)+len(program.Names) != 0 {
+			t.Errorf("Assemble(%q) has a program beside error %d", text, errno)
+		}
+	}
+}
+
+func TestValueWritesIntoNothing(t *testing.T) {
+	whole := append(knownNames(), api.Name{Name: "behind", Value: 1}, api.Name{Name: "last", Value: 2})
+	was := slices.Clone(whole)
+	handed := whole[:len(whole)-2]
+	for _, text := range append(oddTexts(), "a+neg*3", "behind", "b", "over", "-a") {
+		mason.Value(text, here, handed)
+	}
+	if !slices.Equal(whole, was) {
+		t.Errorf("the names that were handed in, or those behind them, are now %v", whole)
+	}
+	if _, errno := mason.Value("behind", here, handed); errno != api.ErrUnknown {
+		t.Errorf("a name behind the list counts: error %d", errno)
+	}
+}
+
+func TestValueKeepsNothing(t *testing.T) {
+	names := []api.Name{{Name: "n", Value: 1}}
+	if got, _ := mason.Value("n", 3, names); got != 1 {
+		t.Errorf("n is %d", got)
+	}
+	names[0].Value = 2
+	if got, _ := mason.Value("n", 4, names); got != 2 {
+		t.Errorf("n is %d where it has become 2", got)
+	}
+	if got, _ := mason.Value(".", 5, names); got != 5 {
+		t.Errorf("the address is %d", got)
+	}
+	if got, errno := mason.Value("n", 5, nil); got != 0 || errno != api.ErrUnknown {
+		t.Errorf("n without names is %d, error %d", got, errno)
+	}
+}
+
+func TestValueAnswersTheSameAtOnceAndAgain(t *testing.T) {
+	names := knownNames()
+	var all sync.WaitGroup
+	for at := range 8 {
+		all.Go(func() {
+			for range 100 {
+				if got, errno := mason.Value("-a*A+.", at, names); got != at-40 || errno != api.OK {
+					t.Errorf("at %d: %d, error %d", at, got, errno)
+				}
+				if got, errno := mason.Value("a+b", at, names); got != 0 || errno != api.ErrUnknown {
+					t.Errorf("at %d: %d, error %d", at, got, errno)
+				}
+			}
+		})
+	}
+	all.Wait()
+}
