@@ -3,6 +3,7 @@ package mason
 
 import (
 	"mason/api"
+	"mason/expand"
 	"mason/expression"
 )
 
@@ -12,7 +13,9 @@ func Value(expr string, at int, names []api.Name) (int, api.Errno) {
 }
 
 // Expand does what macros and conditions say; what is left are lines of operations (P4).
-func Expand(text string) ([]api.Line, api.Errno, int) { return nil, api.OK, 0 }
+func Expand(text string) ([]api.Line, api.Errno, int) {
+	return expand.Expand(text)
+}
 
 // Assemble makes a text into bytes (P5).
 func Assemble(text string) (api.Program, api.Errno, int) { return api.Program{}, api.OK, 0 }

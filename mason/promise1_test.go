@@ -18,6 +18,9 @@ func oddTexts() []string {
 		strings.Repeat("n", api.MaxLine), strings.Repeat("n", api.MaxLine+1),
 		strings.Repeat("\n", api.MaxText), strings.Repeat("\n", api.MaxText+1), strings.Repeat("nop\n", api.MaxText),
 		strings.Repeat("(", 1<<16), strings.Repeat(".if 1\n", 100), strings.Repeat("1-", 1<<16),
+		".macro m\nm\nm\n.end\nm", ".macro m,p\n.if \\p\nm \\p-1\nm \\p-1\n.endif\n.end\nm 7", ".macro m,p\n\\p \\p\n.end\nm m",
+		".macro m\n" + strings.Repeat("\n", 2000) + ".end\n" + strings.Repeat("m\n", api.MaxCalls), ".macro", ".end", ".else", ".endif", ".set", ".if", "\\", ".macro m\n\\\n.end\nm",
+		".macro m,p\n" + strings.Repeat("\\p", 39) + "\n.end\nm " + strings.Repeat("x", 78),
 	}
 	for b := range 256 {
 		texts = append(texts, string([]byte{byte(b)}), string([]byte{'1', byte(b)}), string([]byte{byte(b), '1'}))
@@ -39,7 +42,7 @@ func TestExpandWithErrorIsNothing(t *testing.T) {
 		if errno == api.OK && line != 0 {
 			t.Errorf("Expand(%q) tells line %d without an error", text, line)
 		}
-		if errno != api.OK && len(lines) != 0 {
+		if errno != api.OK && lines != nil {
 			t.Errorf("Expand(%q) has lines beside error %d", text, errno)
 		}
 	}
@@ -101,6 +104,45 @@ func TestValueAnswersTheSameAtOnceAndAgain(t *testing.T) {
 				if got, errno := mason.Value("a+b", at, names); got != 0 || errno != api.ErrUnknown {
 					t.Errorf("at %d: %d, error %d", at, got, errno)
 				}
+			}
+		})
+	}
+	all.Wait()
+}
+
+func TestLinesOfExpandAreTheCallers(t *testing.T) {
+	whole := text(".set a,1", ".macro m,p", "x \\p", "l\\p: y", ".end", "k: m a", "nop", "m b")
+	first, _, _ := mason.Expand(whole)
+	want := slices.Clone(first)
+	second, _, _ := mason.Expand(whole)
+	for i := range first[:cap(first)] {
+		first[:cap(first)][i] = api.Line{Text: "spoiled", From: -1, At: -1, Size: -1}
+	}
+	third, errno, line := mason.Expand(whole)
+	if !slices.Equal(second, want) || !slices.Equal(third, want) || errno != api.OK || line != 0 {
+		t.Errorf("where one answer was written into, the others are %v and %v, want %v", second, third, want)
+	}
+}
+
+func TestExpandKeepsNothing(t *testing.T) {
+	expands(t, text(".set a,1", ".macro m", "x", ".end", "m"), "1 .set a,1", "5 x")
+	expands(t, "m", "1 m")
+	refuses(t, api.ErrUnknown, 1, ".if a")
+	refuses(t, api.ErrNest, 4, text(".macro m", ".if 1", ".end", "m"))
+	refuses(t, api.ErrNest, 1, ".endif")
+	for range 3 {
+		expands(t, ".macro m\n.end\n"+strings.Repeat("m\n", api.MaxCalls))
+		refuses(t, api.ErrNest, 5, text(".macro m", "m", ".end", "", "m"))
+	}
+}
+
+func TestExpandAnswersTheSameAtOnceAndAgain(t *testing.T) {
+	var all sync.WaitGroup
+	for range 8 {
+		all.Go(func() {
+			for range 100 {
+				expands(t, text(".macro m,p", ".if \\p", "x \\p", "m \\p-1", ".endif", ".end", "m 2"), "7 x 2", "7 x 2-1")
+				refuses(t, api.ErrOperand, 4, text(".macro m,p", "\\q", ".end", "m 1"))
 			}
 		})
 	}
