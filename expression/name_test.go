@@ -34,3 +34,16 @@ func TestNamesOfEveryByte(t *testing.T) {
 		}
 	}
 }
+
+func TestRegisters(t *testing.T) {
+	for i, word := range []string{"r0", "r1", "r2", "r3"} {
+		if number, found := Register(word); number != i || !found {
+			t.Errorf("Register(%q) = %d, %t", word, number, found)
+		}
+	}
+	for _, word := range []string{"", "r", "0", "r4", "r9", "r/", "r00", "r1 ", " r1", "R1", "s1", "1r", "r-1", "rr", "r1,", "r\x00"} {
+		if number, found := Register(word); number != 0 || found {
+			t.Errorf("Register(%q) = %d, %t", word, number, found)
+		}
+	}
+}

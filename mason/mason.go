@@ -3,6 +3,7 @@ package mason
 
 import (
 	"mason/api"
+	"mason/assemble"
 	"mason/expand"
 	"mason/expression"
 )
@@ -18,4 +19,6 @@ func Expand(text string) ([]api.Line, api.Errno, int) {
 }
 
 // Assemble makes a text into bytes (P5).
-func Assemble(text string) (api.Program, api.Errno, int) { return api.Program{}, api.OK, 0 }
+func Assemble(text string) (api.Program, api.Errno, int) {
+	return assemble.Assemble(text)
+}

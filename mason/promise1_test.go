@@ -21,6 +21,8 @@ func oddTexts() []string {
 		".macro m\nm\nm\n.end\nm", ".macro m,p\n.if \\p\nm \\p-1\nm \\p-1\n.endif\n.end\nm 7", ".macro m,p\n\\p \\p\n.end\nm m",
 		".macro m\n" + strings.Repeat("\n", 2000) + ".end\n" + strings.Repeat("m\n", api.MaxCalls), ".macro", ".end", ".else", ".endif", ".set", ".if", "\\", ".macro m\n\\\n.end\nm",
 		".macro m,p\n" + strings.Repeat("\\p", 39) + "\n.end\nm " + strings.Repeat("x", 78),
+		"mov", "mov ,", "jz", "jz ,", "load ,", ".byte", ".byte ,", ".space", ".space ,", ".space -1", ".align", ".align 0", ".align -4", ".align 1000000", ".space 1000000",
+		strings.Repeat(".space 1000\n", 240), strings.Repeat(".align 16\nnop\n", 140), strings.Repeat("jmp 9999\n", 280), ".set a,1\na: .set", "a: b: c:", ".set .set,1", "a:\na:\na:",
 	}
 	for b := range 256 {
 		texts = append(texts, string([]byte{byte(b)}), string([]byte{'1', byte(b)}), string([]byte{byte(b), '1'}))
@@ -54,7 +56,7 @@ func TestAssembleWithErrorIsNothing(t *testing.T) {
 		if errno == api.OK && line != 0 {
 			t.Errorf("Assemble(%q) tells line %d without an error", text, line)
 		}
-		if errno != api.OK && len(program.Bytes)+len(program.Lines)+len(program.Names) != 0 {
+		if errno != api.OK && (program.Bytes != nil || program.Lines != nil || program.Names != nil) {
 			t.Errorf("Assemble(%q) has a program beside error %d", text, errno)
 		}
 	}
@@ -143,6 +145,54 @@ func TestExpandAnswersTheSameAtOnceAndAgain(t *testing.T) {
 			for range 100 {
 				expands(t, text(".macro m,p", ".if \\p", "x \\p", "m \\p-1", ".endif", ".end", "m 2"), "7 x 2", "7 x 2-1")
 				refuses(t, api.ErrOperand, 4, text(".macro m,p", "\\q", ".end", "m 1"))
+			}
+		})
+	}
+	all.Wait()
+}
+
+func TestProgramsAreTheCallers(t *testing.T) {
+	whole := text(".set a,1", ".macro m,p", "jmp l\\p", "l\\p: .byte a,\\p", ".end", "k: m 1", "nop", "m 2", ".space 3", ".align 8")
+	first, _, _ := mason.Assemble(whole)
+	want := api.Program{Bytes: slices.Clone(first.Bytes), Lines: slices.Clone(first.Lines), Names: slices.Clone(first.Names)}
+	second, _, _ := mason.Assemble(whole)
+	for i := range first.Bytes[:cap(first.Bytes)] {
+		first.Bytes[:cap(first.Bytes)][i] = 99
+	}
+	for i := range first.Lines[:cap(first.Lines)] {
+		first.Lines[:cap(first.Lines)][i] = api.Line{Text: "spoiled", From: -1, At: -1, Size: -1}
+	}
+	for i := range first.Names[:cap(first.Names)] {
+		first.Names[:cap(first.Names)][i] = api.Name{Name: "spoiled", Value: -1}
+	}
+	third, errno, line := mason.Assemble(whole)
+	if !sameProgram(second, want) || !sameProgram(third, want) || errno != api.OK || line != 0 {
+		t.Errorf("where one answer was written into, the others are %v and %v, want %v", second, third, want)
+	}
+}
+
+func TestAssembleKeepsNothing(t *testing.T) {
+	for range 3 {
+		makes(t, ".set a,1\nb: .byte a,b\njmp 300", 1, 0, 129, 44, 1)
+		rejects(t, api.ErrUnknown, 1, ".byte a")
+		rejects(t, api.ErrUnknown, 1, ".space a")
+		rejects(t, api.ErrUnknown, 2, "nop\ncall b")
+		makes(t, "a: ret\nb: jmp 3", 161, 128, 0)
+		rejects(t, api.ErrSize, 0, ".space 600\n.space 600")
+		makes(t, ".space 2\nret", 0, 0, 161)
+	}
+}
+
+func TestAssembleAnswersTheSameAtOnceAndAgain(t *testing.T) {
+	ladder, made := ladder(50)
+	var all sync.WaitGroup
+	for range 8 {
+		all.Go(func() {
+			for range 20 {
+				makes(t, ladder, made...)
+				makes(t, "jmp end\n.space 3\nend: load r1,end", 128, 3, 0, 0, 0, 17, 5)
+				rejects(t, api.ErrOp, 2, "nop\nfoo")
+				rejects(t, api.ErrValue, 3, "a: nop\n\nload r1,a-129")
 			}
 		})
 	}
