@@ -19,7 +19,7 @@ type statement struct {
 
 // look takes in what one line says, but for the numbers that hang on addresses.
 func (a *assembly) look(parts lines.Parts) api.Errno {
-	does, found := operations[parts.Operation]
+	does, found := operationOf(parts.Operation)
 	if !found && parts.Operation != "" && parts.Operation != ".set" {
 		return api.ErrOp
 	}
